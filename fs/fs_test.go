@@ -310,11 +310,15 @@ func all(t *testing.T, f *FS, s *slow, events ...event) {
 // same asks all that a file system tells against what it should have.
 func same(t *testing.T, f *FS, s *slow) {
 	t.Helper()
-	if got, want := f.List(), slices.Sorted(maps.Keys(s.now())); !slices.Equal(got, want) {
-		t.Fatalf("List: %q, want %q", got, want)
+	names, used, steps := slices.Sorted(maps.Keys(s.now())), s.used(), s.steps
+	if s.off {
+		names, used, steps = nil, 0, 0
 	}
-	if f.Used() != s.used() || f.Steps() != s.steps || f.On() == s.off {
-		t.Fatalf("Used, Steps, On: %d, %d, %v, want %d, %d, %v", f.Used(), f.Steps(), f.On(), s.used(), s.steps, !s.off)
+	if got := f.List(); !slices.Equal(got, names) {
+		t.Fatalf("List: %q, want %q", got, names)
+	}
+	if f.Used() != used || f.Steps() != steps || f.On() == s.off {
+		t.Fatalf("Used, Steps, On: %d, %d, %v, want %d, %d, %v", f.Used(), f.Steps(), f.On(), used, steps, !s.off)
 	}
 	for name := range s.now() {
 		want, e := s.at(name).bytes(), api.OK
@@ -449,8 +453,8 @@ func TestExamples(t *testing.T) {
 	}
 	fine(t, f.Fuse(1), f.Create("b"))
 	refused(t, api.ErrOff, f.Create("c"))
-	if f.On() || !slices.Equal(f.List(), []string{"a", "b"}) {
-		t.Error(f.On(), f.List())
+	if f.On() {
+		t.Error("the power is on")
 	}
 }
 
@@ -534,17 +538,53 @@ func TestListAndUsed(t *testing.T) {
 	}
 }
 
-// P7.1: also while the power is off there are names, bytes and steps.
+// tells fails, unless List, Used, Steps and On tell that.
+func tells(t *testing.T, f *FS, names []string, used, steps int, on bool) {
+	t.Helper()
+	if !slices.Equal(f.List(), names) || f.Used() != used || f.Steps() != steps || f.On() != on {
+		t.Fatalf("List, Used, Steps, On: %q, %d, %d, %v, want %q, %d, %d, %v", f.List(), f.Used(), f.Steps(), f.On(), names, used, steps, on)
+	}
+}
+
+// P7.1: while the power is off nothing is told, as of none; what is there stays, and is told again behind a crash.
 func TestAskedWhileOff(t *testing.T) {
 	f, s := mixed(t)
 	all(t, f, s, event{kind: "fuse", at: 0})
-	same(t, f, s)
+	tells(t, f, []string{"cut", "late", "moved"}, 32, 19, true)
 	refused(t, api.ErrOff, both(t, f, s, event{kind: "syncdir"}))
-	if f.On() || !slices.Equal(f.List(), []string{"cut", "late", "moved"}) || f.Used() != 32 || f.Steps() != 20 {
-		t.Error(f.On(), f.List(), f.Used(), f.Steps())
+	tells(t, f, nil, 0, 0, false)
+	g := f.Copy()
+	tells(t, g, nil, 0, 0, false)
+	// What is refused then, or done by Quota, brings nothing back.
+	refused(t, api.ErrOff, f.Create("new"), f.Fuse(9))
+	refused(t, api.ErrArg, f.Crash([]int{-1}), f.Quota(-1))
+	fine(t, f.Quota(100))
+	tells(t, f, nil, 0, 0, false)
+	for _, off := range []*FS{f, g, f.Copy(), g.Copy().Copy()} {
+		tells(t, crashed(t, off, keepAll(s)...), []string{"cut", "late", "moved"}, 32, 20, true)
+		tells(t, crashed(t, off, 1, 5), []string{"cut", "gone", "moved"}, 18, 20, true)
+		tells(t, off, nil, 0, 0, false)
+		fine(t, off.Crash(nil))
+		tells(t, off, []string{"cut", "gone", "old"}, 13, 20, true)
+		fine(t, off.SyncDir(), off.Append("old", []byte("est")))
+		tells(t, off, []string{"cut", "gone", "old"}, 16, 22, true)
 	}
-	same(t, f, s)
-	same(t, f.Copy(), s)
+}
+
+// P7.1: that the power goes off with the first step of all, and in a file system of no files.
+func TestOffAtOnce(t *testing.T) {
+	f, _ := made(t, 100)
+	fine(t, f.Fuse(0))
+	tells(t, f, nil, 0, 0, true)
+	refused(t, api.ErrOff, f.Create("new"))
+	tells(t, f, nil, 0, 0, false)
+	fine(t, f.Crash(nil))
+	tells(t, f, nil, 0, 1, true)
+	fine(t, f.Create("2"), f.Fuse(0))
+	refused(t, api.ErrOff, f.Create("new"))
+	tells(t, f, nil, 0, 0, false)
+	tells(t, crashed(t, f, 1), []string{"2"}, 0, 3, true)
+	tells(t, crashed(t, f), nil, 0, 3, true)
 }
 
 // P7.2, P7.3: a name that may not be is ErrArg, one that is not there ErrNone, whatever else is wrong.
@@ -735,8 +775,11 @@ func TestSteps(t *testing.T) {
 			both(t, f, s, other)
 		}
 		ahead := s.copy()
-		if both(t, f, s, e) != api.ErrOff || f.On() || f.Steps() != 21 {
+		if both(t, f, s, e) != api.ErrOff || f.On() || f.Steps() != 0 {
 			t.Errorf("%+v left the power: %v, %d", e, f.On(), f.Steps())
+		}
+		if n := crashed(t, f).Steps(); n != 21 {
+			t.Errorf("%+v: %d steps behind a crash", e, n)
 		}
 		same(t, f, s)
 		// Steps are none while the power is off.
@@ -744,8 +787,8 @@ func TestSteps(t *testing.T) {
 			both(t, f, s, next)
 		}
 		refused(t, api.ErrOff, f.Fuse(5), f.Fuse(0), f.Fuse(-1))
-		if f.On() || f.Steps() != 21 {
-			t.Error(f.On(), f.Steps())
+		if n := crashed(t, f).Steps(); f.On() || n != 21 {
+			t.Error(f.On(), n)
 		}
 		same(t, f, s)
 		// It was not done: a crash that keeps all tells what was there.
@@ -775,10 +818,10 @@ func TestFuse(t *testing.T) {
 			refused(t, api.ErrOff, both(t, f, s, event{kind: "syncdir"}), both(t, f, s, event{kind: "fuse", at: 100}))
 			same(t, f, s)
 		}
+		all(t, f, s, event{kind: "crash"})
 		if f.Steps() != n+3 {
 			t.Error(n, f.Steps())
 		}
-		all(t, f, s, event{kind: "crash"})
 		for range n + 50 {
 			all(t, f, s, event{kind: "syncdir"})
 		}
@@ -1054,8 +1097,8 @@ func TestEachFuse(t *testing.T) {
 			refused(t, api.ErrOff, both(t, f, s, e))
 		}
 		same(t, f, s)
-		if n < len(row) && (f.Steps() != n+1 || f.On()) {
-			t.Error(n, f.Steps(), f.On())
+		if got := crashed(t, f).Steps(); n < len(row) && (got != n+1 || f.On()) {
+			t.Error(n, got, f.On())
 		}
 		for names := range 4 {
 			for units := range 7 {
@@ -1101,17 +1144,17 @@ func TestCopy(t *testing.T) {
 	refused(t, api.ErrSpace, both(t, f, s, event{kind: "append", name: "a", b: []byte("6")}), both(t, g, r, event{kind: "append", name: "a", b: []byte("6")}))
 	all(t, f, s, event{kind: "syncdir"})
 	refused(t, api.ErrOff, both(t, f, s, event{kind: "syncdir"}))
-	if !g.On() || g.Steps() != 3 || f.Steps() != 5 {
-		t.Error(g.On(), g.Steps(), f.Steps())
+	if n := crashed(t, f).Steps(); !g.On() || g.Steps() != 3 || n != 5 {
+		t.Error(g.On(), g.Steps(), n)
 	}
 	all(t, g, r, event{kind: "syncdir"}, event{kind: "fuse", at: 50})
 	same(t, f, s)
 	same(t, g, r)
 	h := f.Copy()
-	if h.On() || h.Steps() != 5 || h.Fuse(1) != api.ErrOff || h.Create("b") != api.ErrOff || h.Steps() != 5 {
-		t.Error("a copy without power:", h.On(), h.Steps())
-	}
+	tells(t, h, nil, 0, 0, false)
+	refused(t, api.ErrOff, h.Fuse(1), h.Create("b"))
 	fine(t, h.Crash(nil))
+	tells(t, h, []string{"a"}, 0, 5, true)
 	same(t, f, s)
 }
 
