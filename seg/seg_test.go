@@ -164,13 +164,38 @@ func notFound(t *testing.T, x *Seg, l api.Loc, want api.Errno) {
 	}
 }
 
-// loaded asks that Load tells the scan of just these bytes.
-func loaded(t *testing.T, f *fs.FS, id uint32, b []byte) {
+// laid is a record, and where it was told to stand.
+type laid struct {
+	at api.Loc
+	r  api.Record
+}
+
+// scanned asks that Load tells a scan that found just these, in order, passed over the bad ones at passed, and stopped at end for that reason.
+func scanned(t *testing.T, f *fs.FS, id uint32, all []laid, passed []int, end int, why api.Errno) scan.Scan {
 	t.Helper()
 	got, e := Load(f, id)
-	if want := scan.Of(id, b); e != api.OK || !reflect.DeepEqual(got, want) {
-		t.Errorf("Load %d = %v, %d, want %v", id, got, e, want)
+	if e != api.OK || got.Id != id || !slices.Equal(got.Passed, passed) || got.End != end || got.Why != why {
+		t.Errorf("Load %d = %d, passed %v, end %d, why %d, %d, want %v, %d, %d", id, got.Id, got.Passed, got.End, got.Why, e, passed, end, why)
 	}
+	same := func(x scan.Found, y laid) bool {
+		r := x.Record
+		return x.At == y.at && x.Size == len(runOf(y.r)) && r.Seq == y.r.Seq && r.Kind == y.r.Kind && r.Prev == y.r.Prev && bytes.Equal(r.Key, y.r.Key) && bytes.Equal(r.Value, y.r.Value)
+	}
+	if !slices.EqualFunc(got.Found, all, same) {
+		t.Errorf("Load %d found %d records, %v, want %d, %v", id, len(got.Found), got.Found, len(all), all)
+	}
+	return got
+}
+
+// laidOf is these records, one behind the other from byte 16 on, and the bytes of such a segment.
+func laidOf(id uint32, records ...api.Record) ([]laid, []byte) {
+	var all []laid
+	b := topOf(id)
+	for _, r := range records {
+		all = append(all, laid{api.Loc{Seg: id, Off: uint32(len(b))}, r})
+		b = append(b, runOf(r)...)
+	}
+	return all, b
 }
 
 // notLoaded asks that Load tells that error, and nothing else.
@@ -307,7 +332,7 @@ func TestCreate(t *testing.T) {
 			t.Errorf("%d: % x", id, b)
 		}
 		notFound(t, x, api.Loc{Seg: id, Off: 16}, api.ErrArg)
-		loaded(t, f, id, topOf(id))
+		scanned(t, f, id, nil, nil, 16, api.OK)
 	}
 }
 
@@ -499,21 +524,77 @@ func TestLoadErrors(t *testing.T) {
 // P11.3: Load tells the scan of all that the file has, whatever that is, and changes nothing.
 func TestLoad(t *testing.T) {
 	f := disk(t, api.MaxBytes)
-	long := topOf(6)
-	for n := range 20000 {
-		long = append(long, runOf(great(uint64(n)+1))...)
+	two, whole := laidOf(1, small(1), great(2), small(3))
+	bad := bytes.Clone(whole)
+	bad[42+500] ^= 1
+	order, wrongOrder := laidOf(7, small(5), small(5))
+	var greats []api.Record
+	for n := range 16000 {
+		greats = append(greats, great(uint64(n)+1))
 	}
-	whole := append(append(topOf(1), runOf(small(1))...), runOf(small(2))...)
-	files := [][]byte{whole, whole[:60], topOf(3), {}, []byte("other"), long, append(topOf(3), runOf(small(1))...), append(topOf(8), make([]byte, 100)...)}
-	for i, b := range files {
-		put(t, f, nameOf(uint32(i+1)), b)
+	long, longBytes := laidOf(8, greats...)
+	// The last one that begins at a byte up to 2^24.
+	past := (1<<24-16)/1113 + 1
+	as := func(id uint32, b []byte) []byte { return append(topOf(id), b[16:]...) }
+	moved := func(id uint32, all []laid) []laid {
+		all = slices.Clone(all)
+		for i := range all {
+			all[i].at.Seg = id
+		}
+		return all
+	}
+	files := []struct {
+		b      []byte
+		all    []laid
+		passed []int
+		end    int
+		why    api.Errno
+	}{
+		1:  {whole, two, nil, len(whole), api.OK},
+		2:  {as(2, whole[:60]), moved(2, two[:1]), nil, 42, api.ErrTorn},
+		3:  {as(3, bad), moved(3, []laid{two[0], two[2]}), []int{42}, len(bad), api.OK},
+		4:  {whole, nil, nil, 0, api.ErrBad},
+		5:  {nil, nil, nil, 0, api.ErrTorn},
+		6:  {[]byte("other"), nil, nil, 0, api.ErrTorn},
+		7:  {wrongOrder, order[:1], nil, 42, api.ErrBad},
+		8:  {longBytes, long[:past], nil, 16 + past*1113, api.ErrBad},
+		9:  {append(as(9, whole), make([]byte, 100)...), moved(9, two), nil, len(whole), api.ErrBad},
+		10: {as(10, whole[:42]), moved(10, two[:1]), nil, 42, api.OK},
+	}
+	for id, c := range files[1:] {
+		put(t, f, nameOf(uint32(id+1)), c.b)
 	}
 	steps, used := f.Steps(), f.Used()
-	for i, b := range files {
-		loaded(t, f, uint32(i+1), b)
+	for id, c := range files[1:] {
+		scanned(t, f, uint32(id+1), c.all, c.passed, c.end, c.why)
+		if b := bytesOf(t, f, nameOf(uint32(id+1))); !bytes.Equal(b, c.b) {
+			t.Error(id+1, "is changed")
+		}
 	}
 	if f.Steps() != steps || f.Used() != used {
 		t.Error(f.Steps(), f.Used())
+	}
+}
+
+// P11.3: what is loose is of the file's bytes as well; a record that was flipped is passed over.
+func TestLoadFlipped(t *testing.T) {
+	f := disk(t, 10000)
+	x := created(t, f, 12)
+	var all []laid
+	for seq := uint64(1); seq <= 5; seq++ {
+		all = append(all, laid{appended(t, x, small(seq)), small(seq)})
+		scanned(t, f, 12, all, nil, int(x.Seal().Size), api.OK)
+	}
+	x.Sync()
+	f.Flip(nameOf(12), 16+26+21, 4)
+	s := scanned(t, f, 12, []laid{all[0], all[2], all[3], all[4]}, []int{42}, 16+5*26, api.OK)
+	if lost := s.Lost(x.Seal()); s.Seal() != x.Seal() || !slices.Equal(lost, []scan.Period{{From: 2, To: 2}}) {
+		t.Error(s.Seal(), lost)
+	}
+	f.Flip(nameOf(12), 16+3*26+3, 4)
+	s = scanned(t, f, 12, []laid{all[0], all[2]}, []int{42}, 16+3*26, api.ErrBad)
+	if lost := s.Lost(x.Seal()); !slices.Equal(lost, []scan.Period{{From: 2, To: 2}, {From: 4, To: 5}}) {
+		t.Error(lost)
 	}
 }
 
@@ -830,10 +911,6 @@ func TestNone(t *testing.T) {
 
 // P11.6: segments that are written side by side: each record is read as it was, all the while and behind; the files have the heads and the runs, in order, at the locs that were told; a seal is all that one need know.
 func TestBack(t *testing.T) {
-	type laid struct {
-		at api.Loc
-		r  api.Record
-	}
 	chance := rand.New(rand.NewSource(116))
 	for range 40 {
 		f := disk(t, 1<<20)
@@ -876,14 +953,18 @@ func TestBack(t *testing.T) {
 			if b := bytesOf(t, f, nameOf(s.Id)); !bytes.Equal(b, want) {
 				t.Errorf("% x, want % x", b, want)
 			}
-			loaded(t, f, s.Id, want)
+			whole := scanned(t, f, s.Id, all[x], nil, len(want), api.OK)
+			if whole.Seal() != seal || len(whole.Lost(seal)) != 0 {
+				t.Errorf("%v, want %v, lost %v", whole.Seal(), seal, whole.Lost(seal))
+			}
 		}
 	}
 }
 
-// P11.7: behind each crash the file has a beginning of what was appended, all that was safe within it.
+// P11.7: behind each crash the file has a beginning of what was appended, all that was safe within it; a scan finds just what of that is whole, and stops with OK or ErrTorn.
 func TestCrash(t *testing.T) {
 	chance := rand.New(rand.NewSource(117))
+	whys := map[api.Errno]int{}
 	for range 60 {
 		f := disk(t, 1<<20)
 		x := created(t, f, 1+uint32(chance.Intn(1<<24-1)))
@@ -892,10 +973,14 @@ func TestCrash(t *testing.T) {
 			f.Fuse(chance.Intn(30))
 		}
 		all, safe, safeSize := topOf(id), uint64(0), 16
+		var told []laid
+		// Where a record ends, as much is found as there are ahead of it.
+		ends := map[int]bool{16: true}
 		for seq := uint64(1); seq <= 20; seq++ {
 			if r := byChance(chance, seq); chance.Intn(4) != 0 {
-				if _, e := x.Append(r); e == api.OK {
-					all = append(all, runOf(r)...)
+				if l, e := x.Append(r); e == api.OK {
+					all, told = append(all, runOf(r)...), append(told, laid{l, r})
+					ends[len(all)] = true
 				}
 			} else if x.Sync() == api.OK {
 				safe, safeSize = x.Seal().Last, len(all)
@@ -907,15 +992,35 @@ func TestCrash(t *testing.T) {
 			if e := behind.Crash([]int{0, keep}); e != api.OK {
 				t.Fatal(e)
 			}
-			want := all[:safeSize+keep]
-			if b := bytesOf(t, behind, nameOf(id)); !bytes.Equal(b, want) {
-				t.Errorf("%d kept: %d bytes, want %d", keep, len(b), len(want))
+			size := safeSize + keep
+			if b := bytesOf(t, behind, nameOf(id)); !bytes.Equal(b, all[:size]) {
+				t.Errorf("%d kept: %d bytes, want %d", keep, len(b), size)
 			}
-			if keep%50 == 0 {
-				loaded(t, behind, id, want)
+			if keep%50 == 0 || ends[size-1] || ends[size] || ends[size+1] {
+				whys[crashIsFound(t, behind, id, told, safe, size)]++
 			}
 		}
 	}
+	if len(whys) != 2 || min(whys[api.OK], whys[api.ErrTorn]) < 100 {
+		t.Error(whys)
+	}
+}
+
+// crashIsFound asks that a scan of the first size bytes finds those records that are whole, up to the safe number at least; it is told why it stopped.
+func crashIsFound(t *testing.T, f *fs.FS, id uint32, told []laid, safe uint64, size int) api.Errno {
+	t.Helper()
+	whole, end, why := 0, 16, api.OK
+	for whole < len(told) && end+len(runOf(told[whole].r)) <= size {
+		end += len(runOf(told[whole].r))
+		whole++
+	}
+	if end < size {
+		why = api.ErrTorn
+	}
+	if s := scanned(t, f, id, told[:whole], nil, end, why); s.Seal().Last < safe {
+		t.Errorf("up to %d, though %d was safe", s.Seal().Last, safe)
+	}
+	return why
 }
 
 // R3: what is handed in stays as it was, and is not kept; what is told is new memory.
